@@ -1,0 +1,173 @@
+package tests
+
+import (
+	"fmt"
+	"math"
+	"reflect"
+	"slices"
+	"testing"
+
+	"loop.example/g01114/impl"
+)
+
+// sentinel fills the spare capacity of arguments, which no function may touch or hand out.
+const sentinel = 777777
+
+var (
+	someLists = slices.Concat(badPiles, [][]int{
+		nil, {}, {1}, {2}, {1, 1}, {2, 1}, {3, 2, 1}, {3, 1, 1, 1}, {4, 2}, {3, 3, 2}, {2, 2, 2},
+		{28}, {27, 1}, {14, 14}, {7, 6, 5, 4, 3, 2, 1}, {14, 7, 7}, ones(14), ones(28),
+	})
+	someNumbers = []int{math.MinInt, -1, 0, 1, 2, 3, 7, 8, 14, 28, 29, 100, 1000, 1001, 3717, 3718, math.MaxInt}
+	someTexts   = []string{"", "0", "1", "3+2+1", "28", "29", "1+2", "3+", "+", "03", "x", "\xff\x00", "3+2+1\n"}
+)
+
+// promised are the functions that have landed: promise 9 speaks of each of them.
+var promised = map[string]any{
+	"IsPiles": impl.IsPiles, "CardsOf": impl.CardsOf, "StepPiles": impl.StepPiles, "StepsFrom": impl.StepsFrom,
+	"PlayOf": impl.PlayOf, "SideOf": impl.SideOf, "SideStep": impl.SideStep, "PastsOf": impl.PastsOf,
+	"PastBy": impl.PastBy, "PastCount": impl.PastCount, "Staircase": impl.Staircase, "HeightFor": impl.HeightFor,
+	"CountPiles": impl.CountPiles, "AllPiles": impl.AllPiles, "RankPiles": impl.RankPiles, "PilesWith": impl.PilesWith,
+	"JoinPiles": impl.JoinPiles, "PilesText": impl.PilesText, "ParsePiles": impl.ParsePiles,
+}
+
+func TestEveryFunctionTakesAllArguments(t *testing.T) {
+	for name, function := range promised {
+		t.Run(name, func(t *testing.T) {
+			f := reflect.ValueOf(function)
+			for _, args := range argumentsFor(f.Type()) {
+				checkCall(t, name, f, args)
+			}
+		})
+	}
+}
+
+// argumentsFor returns all ways to choose arguments from the values above.
+func argumentsFor(f reflect.Type) [][]any {
+	ways := [][]any{{}}
+	for i := range f.NumIn() {
+		var longer [][]any
+		for _, way := range ways {
+			for _, value := range valuesOf(f.In(i)) {
+				longer = append(longer, append(slices.Clone(way), value))
+			}
+		}
+		ways = longer
+	}
+	return ways
+}
+
+func valuesOf(t reflect.Type) []any {
+	var values []any
+	switch t {
+	case reflect.TypeFor[[]int]():
+		for _, a := range someLists {
+			values = append(values, a)
+		}
+	case reflect.TypeFor[int]():
+		for _, n := range someNumbers {
+			values = append(values, n)
+		}
+	case reflect.TypeFor[string]():
+		for _, s := range someTexts {
+			values = append(values, s)
+		}
+	default:
+		panic("no values of " + t.String())
+	}
+	return values
+}
+
+func checkCall(t *testing.T, name string, f reflect.Value, args []any) {
+	t.Helper()
+	what := name
+	for _, arg := range args {
+		what += fmt.Sprintf(" %.60q", fmt.Sprint(arg))
+	}
+	defer func() {
+		if r := recover(); r != nil {
+			t.Errorf("%s panics: %v", what, r)
+		}
+	}()
+	passed := withSpare(args)
+	results := f.Call(passed)
+	if last := results[len(results)-1]; !last.Bool() {
+		for _, r := range results {
+			if !isZero(r) {
+				t.Errorf("%s fails, with the result %v", what, r)
+			}
+		}
+	}
+	before := fmt.Sprint(plain(results))
+	overwrite(t, what, results)
+	if !untouched(args, passed) {
+		t.Errorf("%s changes or hands out an argument", what)
+	}
+	if again := fmt.Sprint(plain(f.Call(withSpare(args)))); again != before {
+		t.Errorf("%s returns %s, and then %s", what, before, again)
+	}
+}
+
+// withSpare copies the arguments, lists with spare capacity that holds sentinels.
+func withSpare(args []any) []reflect.Value {
+	var passed []reflect.Value
+	for _, arg := range args {
+		if a, ok := arg.([]int); ok && a != nil {
+			b := append(slices.Clone(a), slices.Repeat([]int{sentinel}, 40)...)
+			arg = b[:len(a)]
+		}
+		passed = append(passed, reflect.ValueOf(arg))
+	}
+	return passed
+}
+
+// untouched reports whether arguments are as they were, their spare capacity too.
+func untouched(args []any, passed []reflect.Value) bool {
+	for i, arg := range args {
+		a, ok := arg.([]int)
+		if !ok || a == nil {
+			continue
+		}
+		b := passed[i].Interface().([]int)
+		whole := b[:len(b)+40]
+		if !slices.Equal(b, a) || !slices.Equal(whole[len(b):], slices.Repeat([]int{sentinel}, 40)) {
+			return false
+		}
+	}
+	return true
+}
+
+func plain(values []reflect.Value) []any {
+	var out []any
+	for _, v := range values {
+		out = append(out, v.Interface())
+	}
+	return out
+}
+
+// overwrite fills each list of numbers in the results, with its spare capacity, with a number of its own,
+// and then checks that no list has got the number of another one.
+func overwrite(t *testing.T, what string, results []reflect.Value) {
+	t.Helper()
+	var lists [][]int
+	for _, r := range results {
+		switch x := r.Interface().(type) {
+		case []int:
+			lists = append(lists, x)
+		case [][]int:
+			lists = append(lists, x...)
+		}
+	}
+	for i, list := range lists {
+		list = list[:cap(list)]
+		for j := range list {
+			list[j] = -i - 1
+		}
+	}
+	for i, list := range lists {
+		if slices.ContainsFunc(list[:cap(list)], func(x int) bool { return x != -i-1 }) {
+			t.Errorf("%s: results share memory", what)
+			return
+		}
+	}
+}
