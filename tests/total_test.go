@@ -14,9 +14,10 @@ import (
 const sentinel = 777777
 
 var (
-	someLists = slices.Concat(badPiles, [][]int{
+	someLists = slices.Concat(badPiles, badBits, [][]int{
 		nil, {}, {1}, {2}, {1, 1}, {2, 1}, {3, 2, 1}, {3, 1, 1, 1}, {4, 2}, {3, 3, 2}, {2, 2, 2},
 		{28}, {27, 1}, {14, 14}, {7, 6, 5, 4, 3, 2, 1}, {14, 7, 7}, ones(14), ones(28),
+		{0, 1}, {1, 0, 0}, {0, 1, 0, 1}, {0, 1, 1, 1, 1, 1, 1}, {0, 0, 0, 0, 0, 0, 0, 0}, {1, 1, 1, 1, 1, 1, 1, 0},
 	})
 	someNumbers = []int{math.MinInt, -1, 0, 1, 2, 3, 7, 8, 14, 28, 29, 100, 1000, 1001, 3717, 3718, math.MaxInt}
 	someTexts   = []string{"", "0", "1", "3+2+1", "28", "29", "1+2", "3+", "+", "03", "x", "\xff\x00", "3+2+1\n"}
@@ -29,6 +30,10 @@ var promised = map[string]any{
 	"PastBy": impl.PastBy, "PastCount": impl.PastCount, "Staircase": impl.Staircase, "HeightFor": impl.HeightFor,
 	"CountPiles": impl.CountPiles, "AllPiles": impl.AllPiles, "RankPiles": impl.RankPiles, "PilesWith": impl.PilesWith,
 	"JoinPiles": impl.JoinPiles, "PilesText": impl.PilesText, "ParsePiles": impl.ParsePiles,
+	"TailOf": impl.TailOf, "CycleOf": impl.CycleOf, "CycleLength": impl.CycleLength, "IsCyclic": impl.IsCyclic,
+	"BitsOf": impl.BitsOf, "FromBits": impl.FromBits, "TurnBits": impl.TurnBits, "CyclicPiles": impl.CyclicPiles,
+	"CountCycles": impl.CountCycles, "FirstOfCycles": impl.FirstOfCycles, "MeetOfPlays": impl.MeetOfPlays,
+	"LongestTail": impl.LongestTail, "FarthestStart": impl.FarthestStart, "BasinSize": impl.BasinSize,
 }
 
 func TestEveryFunctionTakesAllArguments(t *testing.T) {
