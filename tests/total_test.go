@@ -34,6 +34,9 @@ var promised = map[string]any{
 	"BitsOf": impl.BitsOf, "FromBits": impl.FromBits, "TurnBits": impl.TurnBits, "CyclicPiles": impl.CyclicPiles,
 	"CountCycles": impl.CountCycles, "FirstOfCycles": impl.FirstOfCycles, "MeetOfPlays": impl.MeetOfPlays,
 	"LongestTail": impl.LongestTail, "FarthestStart": impl.FarthestStart, "BasinSize": impl.BasinSize,
+	"LevelsOf": impl.LevelsOf, "PotentialOf": impl.PotentialOf, "DropOf": impl.DropOf, "PotentialsOf": impl.PotentialsOf,
+	"LeastPotential": impl.LeastPotential, "GreatestPotential": impl.GreatestPotential, "IsLeast": impl.IsLeast,
+	"NextDrop": impl.NextDrop, "CardBehind": impl.CardBehind, "RoundOf": impl.RoundOf, "HoleOf": impl.HoleOf, "SpillOf": impl.SpillOf,
 }
 
 func TestEveryFunctionTakesAllArguments(t *testing.T) {
