@@ -15,11 +15,11 @@ const sentinel = 777777
 
 var (
 	someLists = slices.Concat(badPiles, badBits, [][]int{
-		nil, {}, {1}, {2}, {1, 1}, {2, 1}, {3, 2, 1}, {3, 1, 1, 1}, {4, 2}, {3, 3, 2}, {2, 2, 2},
+		nil, {}, {1}, {2}, {1, 1}, {2, 1}, {3, 1}, {1, 1, 1}, {3, 2, 1}, {3, 1, 1, 1}, {4, 2}, {3, 3, 2}, {2, 2, 2},
 		{28}, {27, 1}, {14, 14}, {7, 6, 5, 4, 3, 2, 1}, {14, 7, 7}, ones(14), ones(28),
 		{0, 1}, {1, 0, 0}, {0, 1, 0, 1}, {0, 1, 1, 1, 1, 1, 1}, {0, 0, 0, 0, 0, 0, 0, 0}, {1, 1, 1, 1, 1, 1, 1, 0},
 	})
-	someNumbers = []int{math.MinInt, -1, 0, 1, 2, 3, 7, 8, 14, 28, 29, 100, 1000, 1001, 3717, 3718, math.MaxInt}
+	someNumbers = []int{math.MinInt, -1, 0, 1, 2, 3, 7, 8, 14, 28, 29, 60, 61, 100, 1000, 1001, 3717, 3718, math.MaxInt}
 	someTexts   = []string{"", "0", "1", "3+2+1", "28", "29", "1+2", "3+", "+", "03", "x", "\xff\x00", "3+2+1\n"}
 )
 
@@ -37,6 +37,10 @@ var promised = map[string]any{
 	"LevelsOf": impl.LevelsOf, "PotentialOf": impl.PotentialOf, "DropOf": impl.DropOf, "PotentialsOf": impl.PotentialsOf,
 	"LeastPotential": impl.LeastPotential, "GreatestPotential": impl.GreatestPotential, "IsLeast": impl.IsLeast,
 	"NextDrop": impl.NextDrop, "CardBehind": impl.CardBehind, "RoundOf": impl.RoundOf, "HoleOf": impl.HoleOf, "SpillOf": impl.SpillOf,
+	"IsGarden": impl.IsGarden, "GardensOf": impl.GardensOf, "CountGardens": impl.CountGardens, "PastsAt": impl.PastsAt,
+	"CountAt": impl.CountAt, "TreeOf": impl.TreeOf, "TreeSize": impl.TreeSize, "DepthOf": impl.DepthOf,
+	"FarthestPast": impl.FarthestPast, "FirstPast": impl.FirstPast, "LineBack": impl.LineBack,
+	"DepthTable": impl.DepthTable, "PastTable": impl.PastTable, "IsPastOf": impl.IsPastOf,
 }
 
 func TestEveryFunctionTakesAllArguments(t *testing.T) {
