@@ -11,15 +11,12 @@ const MaxSteps = 1000
 
 // IsPiles reports whether a are piles.
 func IsPiles(a []int) bool {
-	cards := 0
 	for i, pile := range a {
-		// Held against what is still free, so that no sum can overflow.
-		if pile < 1 || pile > MaxCards-cards || i > 0 && pile > a[i-1] {
+		if i > 0 && pile > a[i-1] {
 			return false
 		}
-		cards += pile
 	}
-	return true
+	return IsRow(a)
 }
 
 // CardsOf returns the number of cards.
@@ -228,31 +225,13 @@ func PilesText(a []int) (string, bool) {
 	if !IsPiles(a) {
 		return "", false
 	}
-	if len(a) == 0 {
-		return "0", true
-	}
-	words := make([]string, len(a))
-	for i, pile := range a {
-		words[i] = strconv.Itoa(pile)
-	}
-	return strings.Join(words, "+"), true
+	return joinNumbers(a, "+", "0"), true
 }
 
 // ParsePiles returns the piles with a PilesText. It fails if there are none.
 func ParsePiles(s string) ([]int, bool) {
-	piles := []int{}
-	if s == "0" {
-		return piles, true
-	}
-	for _, word := range strings.Split(s, "+") {
-		pile, err := strconv.Atoi(word)
-		if err != nil {
-			return nil, false
-		}
-		piles = append(piles, pile)
-	}
-	// A number can be written in other ways, with a zero in front for instance.
-	if text, ok := PilesText(piles); !ok || text != s {
+	piles, ok := splitNumbers(s, "+", "0")
+	if !ok || !IsPiles(piles) {
 		return nil, false
 	}
 	return piles, true
@@ -284,18 +263,7 @@ func inOrder(lists ...[]int) []int {
 }
 
 // stepOf returns the piles behind a step of piles.
-func stepOf(a []int) []int {
-	if len(a) == 0 {
-		return []int{}
-	}
-	var lower []int
-	for _, pile := range a {
-		if pile > 1 {
-			lower = append(lower, pile-1)
-		}
-	}
-	return inOrder(lower, []int{len(a)})
-}
+func stepOf(a []int) []int { return inOrder(stepOfRow(a)) }
 
 // pastBy returns the past of piles in which a pile of so many cards has been made.
 func pastBy(a []int, made int) ([]int, bool) {
@@ -334,4 +302,33 @@ func countUpTo(n int, most int) int {
 		}
 	}
 	return counts[n]
+}
+
+// joinNumbers returns the numbers in decimal with a text between them, or another one if there are none.
+func joinNumbers(a []int, between string, none string) string {
+	if len(a) == 0 {
+		return none
+	}
+	words := make([]string, len(a))
+	for i, number := range a {
+		words[i] = strconv.Itoa(number)
+	}
+	return strings.Join(words, between)
+}
+
+// splitNumbers returns the numbers of which joinNumbers makes a text.
+func splitNumbers(s string, between string, none string) ([]int, bool) {
+	numbers := []int{}
+	if s == none {
+		return numbers, true
+	}
+	for _, word := range strings.Split(s, between) {
+		number, err := strconv.Atoi(word)
+		if err != nil {
+			return nil, false
+		}
+		numbers = append(numbers, number)
+	}
+	// A number can be written in other ways, with a zero in front for instance.
+	return numbers, joinNumbers(numbers, between, none) == s
 }

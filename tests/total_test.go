@@ -14,13 +14,14 @@ import (
 const sentinel = 777777
 
 var (
-	someLists = slices.Concat(badPiles, badBits, [][]int{
+	someLists = slices.Concat(badPiles, badBits, badRows, [][]int{
 		nil, {}, {1}, {2}, {1, 1}, {2, 1}, {3, 1}, {1, 1, 1}, {3, 2, 1}, {3, 1, 1, 1}, {4, 2}, {3, 3, 2}, {2, 2, 2},
 		{28}, {27, 1}, {14, 14}, {7, 6, 5, 4, 3, 2, 1}, {14, 7, 7}, ones(14), ones(28),
 		{0, 1}, {1, 0, 0}, {0, 1, 0, 1}, {0, 1, 1, 1, 1, 1, 1}, {0, 0, 0, 0, 0, 0, 0, 0}, {1, 1, 1, 1, 1, 1, 1, 0},
+		{1, 3}, {2, 1, 2}, {1, 27}, {25, 1, 1}, {26, 1, 1}, {1, 2, 3, 4, 5, 6, 7},
 	})
-	someNumbers = []int{math.MinInt, -1, 0, 1, 2, 3, 7, 8, 14, 28, 29, 60, 61, 100, 1000, 1001, 3717, 3718, math.MaxInt}
-	someTexts   = []string{"", "0", "1", "3+2+1", "28", "29", "1+2", "3+", "+", "03", "x", "\xff\x00", "3+2+1\n"}
+	someNumbers = []int{math.MinInt, -1, 0, 1, 2, 3, 7, 8, 10, 11, 12, 13, 14, 28, 29, 60, 61, 100, 1000, 1001, 3717, 3718, 1<<27 - 1, 1 << 27, math.MaxInt}
+	someTexts   = []string{"", "0", "1", "3+2+1", "28", "29", "1+2", "3+", "+", "03", "x", "\xff\x00", "3+2+1\n", "-", "-,1", "1,2", "2,1,2", "1, 2", "2,", "01,2", "+1,2"}
 )
 
 // promised are the functions that have landed: promise 9 speaks of each of them.
@@ -41,6 +42,10 @@ var promised = map[string]any{
 	"CountAt": impl.CountAt, "TreeOf": impl.TreeOf, "TreeSize": impl.TreeSize, "DepthOf": impl.DepthOf,
 	"FarthestPast": impl.FarthestPast, "FirstPast": impl.FirstPast, "LineBack": impl.LineBack,
 	"DepthTable": impl.DepthTable, "PastTable": impl.PastTable, "IsPastOf": impl.IsPastOf,
+	"IsRow": impl.IsRow, "StepRow": impl.StepRow, "RowSteps": impl.RowSteps, "PlayRow": impl.PlayRow, "SortRow": impl.SortRow,
+	"RowOrbit": impl.RowOrbit, "IsCyclicRow": impl.IsCyclicRow, "RowPastCount": impl.RowPastCount, "RowPasts": impl.RowPasts,
+	"CountRows": impl.CountRows, "RankRow": impl.RankRow, "RowWith": impl.RowWith, "CountRowGardens": impl.CountRowGardens,
+	"LongestRow": impl.LongestRow, "RowsOfPiles": impl.RowsOfPiles, "RowText": impl.RowText, "ParseRow": impl.ParseRow,
 }
 
 func TestEveryFunctionTakesAllArguments(t *testing.T) {
