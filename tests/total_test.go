@@ -14,11 +14,13 @@ import (
 const sentinel = 777777
 
 var (
-	someLists = slices.Concat(badPiles, badBits, badRows, [][]int{
+	someLists = slices.Concat(badPiles, badBits, badRows, badSands, [][]int{
 		nil, {}, {1}, {2}, {1, 1}, {2, 1}, {3, 1}, {1, 1, 1}, {3, 2, 1}, {3, 1, 1, 1}, {4, 2}, {3, 3, 2}, {2, 2, 2},
 		{28}, {27, 1}, {14, 14}, {7, 6, 5, 4, 3, 2, 1}, {14, 7, 7}, ones(14), ones(28),
 		{0, 1}, {1, 0, 0}, {0, 1, 0, 1}, {0, 1, 1, 1, 1, 1, 1}, {0, 0, 0, 0, 0, 0, 0, 0}, {1, 1, 1, 1, 1, 1, 1, 0},
 		{1, 3}, {2, 1, 2}, {1, 27}, {25, 1, 1}, {26, 1, 1}, {1, 2, 3, 4, 5, 6, 7},
+		{4}, {2, 2}, {2, 1, 1}, {6}, {5, 4, 3, 2, 1}, {15}, {16}, {10, 8, 4, 2}, {24}, {6, 5, 4, 3, 3, 2, 1}, ones(12), twelveTwos,
+		{0, 0, 1}, {11}, {12}, make([]int, 300), make([]int, 301),
 	})
 	someNumbers = []int{math.MinInt, -1, 0, 1, 2, 3, 7, 8, 10, 11, 12, 13, 14, 28, 29, 60, 61, 100, 1000, 1001, 3717, 3718, 1<<27 - 1, 1 << 27, math.MaxInt}
 	someTexts   = []string{"", "0", "1", "3+2+1", "28", "29", "1+2", "3+", "+", "03", "x", "\xff\x00", "3+2+1\n", "-", "-,1", "1,2", "2,1,2", "1, 2", "2,", "01,2", "+1,2"}
@@ -46,6 +48,10 @@ var promised = map[string]any{
 	"RowOrbit": impl.RowOrbit, "IsCyclicRow": impl.IsCyclicRow, "RowPastCount": impl.RowPastCount, "RowPasts": impl.RowPasts,
 	"CountRows": impl.CountRows, "RankRow": impl.RankRow, "RowWith": impl.RowWith, "CountRowGardens": impl.CountRowGardens,
 	"LongestRow": impl.LongestRow, "RowsOfPiles": impl.RowsOfPiles, "RowText": impl.RowText, "ParseRow": impl.ParseRow,
+	"IsSand": impl.IsSand, "FallsOf": impl.FallsOf, "FallGrain": impl.FallGrain, "IsSettled": impl.IsSettled,
+	"SettleSand": impl.SettleSand, "FallCounts": impl.FallCounts, "PlayFalls": impl.PlayFalls, "WeightOf": impl.WeightOf,
+	"SettledShape": impl.SettledShape, "ReachSand": impl.ReachSand, "CountReach": impl.CountReach, "CanReach": impl.CanReach,
+	"FallsBetween": impl.FallsBetween, "FallVector": impl.FallVector, "CountFallPlays": impl.CountFallPlays, "LowestOf": impl.LowestOf,
 }
 
 func TestEveryFunctionTakesAllArguments(t *testing.T) {
