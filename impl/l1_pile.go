@@ -271,17 +271,20 @@ func pastBy(a []int, made int) ([]int, bool) {
 	if at < 0 || made < len(a)-1 {
 		return nil, false
 	}
-	past := make([]int, 0, made)
-	for i, pile := range a {
-		if i != at {
-			past = append(past, pile+1)
-		}
+	return beforeStep(slices.Concat(a[:at], a[at+1:]), made), true
+}
+
+// beforeStep returns the piles of which these are left when a step has taken so many cards.
+func beforeStep(left []int, taken int) []int {
+	piles := make([]int, 0, taken)
+	for _, pile := range left {
+		piles = append(piles, pile+1)
 	}
-	// Each pile of the past gave one card, so there were as many as cards were taken.
-	for len(past) < made {
-		past = append(past, 1)
+	// Each pile gave one card, so there were as many as cards were taken.
+	for len(piles) < taken {
+		piles = append(piles, 1)
 	}
-	return past, true
+	return piles
 }
 
 // highestNext returns how high a pile behind piles can be, of so many cards that are left.

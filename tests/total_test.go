@@ -23,7 +23,15 @@ var (
 		{0, 0, 1}, {11}, {12}, make([]int, 300), make([]int, 301),
 	})
 	someNumbers = []int{math.MinInt, -1, 0, 1, 2, 3, 7, 8, 10, 11, 12, 13, 14, 28, 29, 60, 61, 100, 1000, 1001, 3717, 3718, 1<<27 - 1, 1 << 27, math.MaxInt}
-	someTexts   = []string{"", "0", "1", "3+2+1", "28", "29", "1+2", "3+", "+", "03", "x", "\xff\x00", "3+2+1\n", "-", "-,1", "1,2", "2,1,2", "1, 2", "2,", "01,2", "+1,2"}
+	someBanks   = slices.Concat(badBanks, []impl.Bank{
+		bank(1, 0), {Height: 10, Piles: []int{}}, bank(10, 9), bank(1, 0, 1), bank(1, 0, ones(14)...), bank(1, 0, ones(15)...), bank(1, 0, ones(28)...),
+		bank(2, 0, 2), bank(2, 0, 1, 1), bank(2, 1, 2, 1), bank(3, 1, 3, 3), bank(3, 0, 3, 2, 2), bank(3, 0, 3, 2, 1, 1), bank(3, 2, 1, 1, 1), bank(3, 2, 3, 3, 3, 3),
+		bank(10, 4, 10), bank(10, 5, 10), bank(10, 8, 10, 10), bank(10, 9, ones(19)...), bank(10, 0, 10, 10, 8),
+	})
+	someTexts = []string{
+		"", "0", "1", "3+2+1", "28", "29", "1+2", "3+", "+", "03", "x", "\xff\x00", "3+2+1\n", "-", "-,1", "1,2", "2,1,2", "1, 2", "2,", "01,2", "+1,2",
+		"3:1:3+3", "1:0:0", "10:9:10+9", "3:1:", "3:1", ":", "::", "3:3:3", "3:1:4", "03:1:3", "3:+1:3", "3:1:3 ", "3:1:3:3", "11:0:0", "3:-1:3",
+	}
 )
 
 // promised are the functions that have landed: promise 9 speaks of each of them.
@@ -52,6 +60,10 @@ var promised = map[string]any{
 	"SettleSand": impl.SettleSand, "FallCounts": impl.FallCounts, "PlayFalls": impl.PlayFalls, "WeightOf": impl.WeightOf,
 	"SettledShape": impl.SettledShape, "ReachSand": impl.ReachSand, "CountReach": impl.CountReach, "CanReach": impl.CanReach,
 	"FallsBetween": impl.FallsBetween, "FallVector": impl.FallVector, "CountFallPlays": impl.CountFallPlays, "LowestOf": impl.LowestOf,
+	"IsBank": impl.IsBank, "BankCards": impl.BankCards, "StartBank": impl.StartBank, "StepBank": impl.StepBank, "BankSteps": impl.BankSteps,
+	"BankOrbit": impl.BankOrbit, "IsCyclicBank": impl.IsCyclicBank, "NewPiles": impl.NewPiles, "CountBanks": impl.CountBanks,
+	"AllBanks": impl.AllBanks, "BankPasts": impl.BankPasts, "AgesOf": impl.AgesOf, "FromAges": impl.FromAges,
+	"CyclicBanks": impl.CyclicBanks, "BankText": impl.BankText, "ParseBank": impl.ParseBank,
 }
 
 func TestEveryFunctionTakesAllArguments(t *testing.T) {
@@ -95,6 +107,10 @@ func valuesOf(t reflect.Type) []any {
 		for _, s := range someTexts {
 			values = append(values, s)
 		}
+	case reflect.TypeFor[impl.Bank]():
+		for _, b := range someBanks {
+			values = append(values, b)
+		}
 	default:
 		panic("no values of " + t.String())
 	}
@@ -135,29 +151,56 @@ func checkCall(t *testing.T, name string, f reflect.Value, args []any) {
 func withSpare(args []any) []reflect.Value {
 	var passed []reflect.Value
 	for _, arg := range args {
-		if a, ok := arg.([]int); ok && a != nil {
-			b := append(slices.Clone(a), slices.Repeat([]int{sentinel}, 40)...)
-			arg = b[:len(a)]
+		switch x := arg.(type) {
+		case []int:
+			arg = spareBehind(x)
+		case impl.Bank:
+			x.Piles = spareBehind(x.Piles)
+			arg = x
 		}
 		passed = append(passed, reflect.ValueOf(arg))
 	}
 	return passed
 }
 
+func spareBehind(a []int) []int {
+	if a == nil {
+		return nil
+	}
+	b := append(slices.Clone(a), slices.Repeat([]int{sentinel}, 40)...)
+	return b[:len(a)]
+}
+
 // untouched reports whether arguments are as they were, their spare capacity too.
 func untouched(args []any, passed []reflect.Value) bool {
 	for i, arg := range args {
-		a, ok := arg.([]int)
-		if !ok || a == nil {
-			continue
-		}
-		b := passed[i].Interface().([]int)
-		whole := b[:len(b)+40]
-		if !slices.Equal(b, a) || !slices.Equal(whole[len(b):], slices.Repeat([]int{sentinel}, 40)) {
-			return false
+		was, is := listsIn(arg), listsIn(passed[i].Interface())
+		for j := range was {
+			if was[j] != nil && !slices.Equal(is[j][:len(is[j])+40], spareBehind(was[j])[:len(was[j])+40]) {
+				return false
+			}
 		}
 	}
 	return true
+}
+
+// listsIn returns the lists of numbers of which a value consists, with their memory.
+func listsIn(value any) [][]int {
+	switch x := value.(type) {
+	case []int:
+		return [][]int{x}
+	case [][]int:
+		return x
+	case impl.Bank:
+		return [][]int{x.Piles}
+	case []impl.Bank:
+		var lists [][]int
+		for _, b := range x {
+			lists = append(lists, b.Piles)
+		}
+		return lists
+	}
+	return nil
 }
 
 func plain(values []reflect.Value) []any {
@@ -174,12 +217,7 @@ func overwrite(t *testing.T, what string, results []reflect.Value) {
 	t.Helper()
 	var lists [][]int
 	for _, r := range results {
-		switch x := r.Interface().(type) {
-		case []int:
-			lists = append(lists, x)
-		case [][]int:
-			lists = append(lists, x...)
-		}
+		lists = append(lists, listsIn(r.Interface())...)
 	}
 	for i, list := range lists {
 		list = list[:cap(list)]
