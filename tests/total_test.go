@@ -5,6 +5,7 @@ import (
 	"math"
 	"reflect"
 	"slices"
+	"strings"
 	"testing"
 
 	"loop.example/g01114/impl"
@@ -31,6 +32,8 @@ var (
 	someTexts = []string{
 		"", "0", "1", "3+2+1", "28", "29", "1+2", "3+", "+", "03", "x", "\xff\x00", "3+2+1\n", "-", "-,1", "1,2", "2,1,2", "1, 2", "2,", "01,2", "+1,2",
 		"3:1:3+3", "1:0:0", "10:9:10+9", "3:1:", "3:1", ":", "::", "3:3:3", "3:1:4", "03:1:3", "3:+1:3", "3:1:3 ", "3:1:3:3", "11:0:0", "3:-1:3",
+		"\n", " ", "take 4", "take 0", "take 29", "step", "steps 3", "steps 1001", "side", "past 2", "past 28", "stairs 7", "stairs 8", "sort 1,2", "show", "cards", "pasts", "tail", "length", "row 2,1,2", "orbit 28", "bank 3:1:3+3", "start 3 7", "start 0 1000000", "fly",
+		"step\n", "take 4\nfly\n", "take 4\nshow", strings.Repeat("\n", impl.MaxLines), strings.Repeat("\n", impl.MaxLines+1), strings.Repeat("x", impl.MaxScript), strings.Repeat("x", impl.MaxScript-1) + "\n", strings.Repeat("x", impl.MaxScript) + "\n",
 	}
 )
 
@@ -64,6 +67,7 @@ var promised = map[string]any{
 	"BankOrbit": impl.BankOrbit, "IsCyclicBank": impl.IsCyclicBank, "NewPiles": impl.NewPiles, "CountBanks": impl.CountBanks,
 	"AllBanks": impl.AllBanks, "BankPasts": impl.BankPasts, "AgesOf": impl.AgesOf, "FromAges": impl.FromAges,
 	"CyclicBanks": impl.CyclicBanks, "BankText": impl.BankText, "ParseBank": impl.ParseBank,
+	"DeskLine": impl.DeskLine, "RunScript": impl.RunScript, "DeskAfter": impl.DeskAfter, "FailedLines": impl.FailedLines,
 }
 
 func TestEveryFunctionTakesAllArguments(t *testing.T) {
@@ -211,13 +215,16 @@ func plain(values []reflect.Value) []any {
 	return out
 }
 
-// overwrite fills each list of numbers in the results, with its spare capacity, with a number of its own,
+// overwrite clears texts in the results, fills each list of numbers, with its spare capacity, with a number of its own,
 // and then checks that no list has got the number of another one.
 func overwrite(t *testing.T, what string, results []reflect.Value) {
 	t.Helper()
 	var lists [][]int
 	for _, r := range results {
 		lists = append(lists, listsIn(r.Interface())...)
+		if texts, ok := r.Interface().([]string); ok {
+			clear(texts)
+		}
 	}
 	for i, list := range lists {
 		list = list[:cap(list)]
